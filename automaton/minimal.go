@@ -13,14 +13,56 @@ type arrow struct {
 
 // minimal returns the canonical automaton of a well-formed table.
 func (t table) minimal() api.Lang {
-	into := t.arrows()
-	useful := t.useful(into)
-	if len(t) == 0 || !useful[0] {
+	if len(t) == 0 {
 		return api.Lang{}
 	}
-	p := newPartition(t, useful)
+	return t.number(t.blocks())
+}
+
+// blocks returns for each state the number of its block, -1 if it does not lie on a path from state 0 to an accepting state; the states of a block accept the same strings.
+func (t table) blocks() []int {
+	if len(t) == 0 {
+		return nil
+	}
+	if block, ok := t.fold(); ok {
+		return block
+	}
+	into := t.arrows()
+	p := newPartition(t, t.useful(into))
 	p.refine(into)
-	return t.number(p.block)
+	return p.block
+}
+
+// numbered reports whether the states of a well-formed table are numbered as they are met from state 0, and no edge is cut in two.
+func (t table) numbered() bool {
+	met := 1
+	for n, s := range t {
+		if n >= met {
+			return false
+		}
+		for i, e := range s.Edges {
+			if e.To > met || i > 0 && s.Edges[i-1].To == e.To && int(s.Edges[i-1].Hi)+1 == int(e.Lo) {
+				return false
+			}
+			met = max(met, e.To+1)
+		}
+	}
+	return true
+}
+
+// least reports whether each state of a well-formed table is a block of its own.
+func (t table) least() bool {
+	if len(t) == 1 {
+		return t[0].Accept // as it is for the set of all strings, which is met most often
+	}
+	taken := make([]bool, len(t))
+	for _, b := range t.blocks() {
+		if b < 0 || taken[b] {
+			return false
+		}
+		taken[b] = true
+	}
+	return true
 }
 
 // arrows returns for each state the edges that lead to it.
@@ -79,23 +121,25 @@ func spread(n int, from []int, next func(n int, visit func(int))) []bool {
 
 // number returns the automaton with one state for each block, numbered as they are met from state 0; states without a block are left out.
 func (t table) number(block []int) api.Lang {
-	numbers := map[int]int{block[0]: 0}
-	found := []int{0} // for each number a state of its block
+	if block[0] < 0 {
+		return api.Lang{}
+	}
+	numbers := make([]int, len(t)) // of each block, 0 if it has not been met
+	found := []int{0}              // for each number a state of its block
 	var states []api.State
 	for i := 0; i < len(found); i++ {
 		from := t[found[i]]
 		state := api.State{Accept: from.Accept}
 		for _, e := range from.Edges {
-			if block[e.To] < 0 {
+			to := block[e.To]
+			if to < 0 {
 				continue
 			}
-			to, ok := numbers[block[e.To]]
-			if !ok {
-				to = len(found)
-				numbers[block[e.To]] = to
+			if numbers[to] == 0 && to != block[0] {
+				numbers[to] = len(found)
 				found = append(found, e.To)
 			}
-			state.Edges = appendEdge(state.Edges, api.Edge{Lo: e.Lo, Hi: e.Hi, To: to})
+			state.Edges = appendEdge(state.Edges, api.Edge{Lo: e.Lo, Hi: e.Hi, To: numbers[to]})
 		}
 		states = append(states, state)
 	}

@@ -1,7 +1,9 @@
 package value
 
 import (
+	"iter"
 	"math"
+	"slices"
 
 	"configlang/api"
 	"configlang/automaton"
@@ -100,7 +102,7 @@ func (m *machines) visit(room int, isNew func(stage []int) bool) (ok, finished b
 		if m.accepting(waiting[0]) != 1 {
 			return false, true
 		}
-		for _, stage := range m.next(waiting[0]) {
+		for stage := range m.next(waiting[0]) {
 			if !isNew(stage) {
 				continue
 			}
@@ -108,7 +110,7 @@ func (m *machines) visit(room int, isNew func(stage []int) bool) (ok, finished b
 			if room < 0 {
 				return false, false
 			}
-			waiting = append(waiting, stage)
+			waiting = append(waiting, slices.Clone(stage))
 		}
 	}
 	return true, true
@@ -125,32 +127,35 @@ func (m *machines) accepting(stage []int) int {
 	return n
 }
 
-// next returns the stages that follow with all bytes; bytes that no edge tells apart have one together.
-func (m *machines) next(stage []int) [][]int {
-	var cuts [257]bool // whether an edge begins at a byte, or ends before it
-	for _, s := range stage {
-		for _, e := range m.states[s].Edges {
-			cuts[e.Lo] = true
-			cuts[int(e.Hi)+1] = true
+// next yields the stages that follow with all bytes, in memory that is used again for the next one; bytes that no edge tells apart have one together.
+func (m *machines) next(stage []int) iter.Seq[[]int] {
+	return func(yield func([]int) bool) {
+		edges := make([][]api.Edge, len(stage)) // those of each state that are not left behind
+		for i, s := range stage {
+			edges[i] = m.states[s].Edges
 		}
-	}
-	var group [256]int
-	groups := 1
-	for b := range group {
-		if b > 0 && cuts[b] {
-			groups++
-		}
-		group[b] = groups - 1
-	}
-	stages := make([][]int, groups)
-	for _, s := range stage {
-		for _, e := range m.states[s].Edges {
-			for g := group[e.Lo]; g <= group[e.Hi]; g++ {
-				stages[g] = append(stages[g], m.states[s].first+e.To)
+		var to []int
+		for lo, hi := 0, 0; lo < 256; lo = hi + 1 {
+			to = to[:0]
+			hi = 255
+			for i, s := range stage {
+				for len(edges[i]) > 0 && int(edges[i][0].Hi) < lo {
+					edges[i] = edges[i][1:]
+				}
+				switch l := edges[i]; {
+				case len(l) == 0:
+				case lo < int(l[0].Lo):
+					hi = min(hi, int(l[0].Lo)-1)
+				default:
+					hi = min(hi, int(l[0].Hi))
+					to = append(to, m.states[s].first+l[0].To)
+				}
+			}
+			if !yield(to) {
+				return
 			}
 		}
 	}
-	return stages
 }
 
 // key returns a text that differs for different stages.

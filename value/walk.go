@@ -4,6 +4,7 @@ import (
 	"slices"
 
 	"configlang/api"
+	"configlang/parts"
 	"configlang/scalar"
 )
 
@@ -48,7 +49,7 @@ func (w *walker) value(v api.Value) bool {
 	}
 	defer w.leave()
 	if v.Any {
-		return same(v, Top().V)
+		return parts.Same(v, Top().V)
 	}
 	return scalar.Valid(v.Scalars) && every(v.Lists, w.list) && every(v.Structs, w.fields)
 }
@@ -60,7 +61,7 @@ func (w *walker) both(v api.Val) bool {
 		return false
 	}
 	// Most defaults are the values themselves: to examine them again would double the work with each level.
-	if same(v.V, v.D) {
+	if parts.Same(v.V, v.D) {
 		w.again(w.values - before)
 		return true
 	}

@@ -1,4 +1,5 @@
-package value
+// Package parts compares and copies values part by part. It does not ask whether they are sound, so that the layers that have found that out need not do so again for each part.
+package parts
 
 import (
 	"cmp"
@@ -20,13 +21,13 @@ func chain(comparisons ...func() int) int {
 	return 0
 }
 
-// compareValues compares sound values.
-func compareValues(a, b api.Value) int {
+// Compare compares sound values in the order of layer 12.
+func Compare(a, b api.Value) int {
 	return chain(
 		func() int { return compareFlags(a.Any, b.Any) },
 		func() int { return compareScalars(a.Scalars, b.Scalars) },
-		func() int { return slices.CompareFunc(a.Lists, b.Lists, compareLists) },
-		func() int { return slices.CompareFunc(a.Structs, b.Structs, compareStructs) },
+		func() int { return slices.CompareFunc(a.Lists, b.Lists, CompareLists) },
+		func() int { return slices.CompareFunc(a.Structs, b.Structs, CompareStructs) },
 	)
 }
 
@@ -43,7 +44,7 @@ func compareFlags(a, b bool) int {
 
 // compareScalars compares valid sets of scalars.
 func compareScalars(a, b api.Scalars) int {
-	if sameScalars(a, b) {
+	if SameScalars(a, b) {
 		return 0
 	}
 	return scalar.Compare(a, b)
@@ -52,13 +53,13 @@ func compareScalars(a, b api.Scalars) int {
 // compareVals compares Vals by their values, then by their defaults.
 func compareVals(a, b api.Val) int {
 	return chain(
-		func() int { return compareValues(a.V, b.V) },
-		func() int { return compareValues(a.D, b.D) },
+		func() int { return Compare(a.V, b.V) },
+		func() int { return Compare(a.D, b.D) },
 	)
 }
 
-// compareLists compares list cases.
-func compareLists(a, b api.ListCase) int {
+// CompareLists compares list cases.
+func CompareLists(a, b api.ListCase) int {
 	return chain(
 		func() int { return cmp.Compare(len(a.Items), len(b.Items)) },
 		func() int { return compareFlags(len(a.Rest) > 0, len(b.Rest) > 0) },
@@ -67,8 +68,8 @@ func compareLists(a, b api.ListCase) int {
 	)
 }
 
-// compareStructs compares struct cases.
-func compareStructs(a, b api.StructCase) int {
+// CompareStructs compares struct cases.
+func CompareStructs(a, b api.StructCase) int {
 	return chain(
 		func() int { return slices.CompareFunc(a.Fields, b.Fields, compareFields) },
 		func() int { return slices.CompareFunc(a.Classes, b.Classes, compareClasses) },
@@ -100,33 +101,33 @@ func compareSets(a, b api.Lang) int {
 	return lang.Compare(a, b)
 }
 
-// same reports whether two values have the same parts, whether they are sound or not.
-func same(a, b api.Value) bool {
-	return a.Any == b.Any && sameScalars(a.Scalars, b.Scalars) &&
+// Same reports whether two values have the same parts, whether they are sound or not.
+func Same(a, b api.Value) bool {
+	return a.Any == b.Any && SameScalars(a.Scalars, b.Scalars) &&
 		slices.EqualFunc(a.Lists, b.Lists, sameList) && slices.EqualFunc(a.Structs, b.Structs, sameStruct)
 }
 
-// sameScalars reports whether two sets have the same parts, whether they are valid or not.
-func sameScalars(a, b api.Scalars) bool {
+// SameScalars reports whether two sets have the same parts, whether they are valid or not.
+func SameScalars(a, b api.Scalars) bool {
 	return a.Null == b.Null && a.False == b.False && a.True == b.True &&
 		slices.Equal(a.Nums.Ints, b.Nums.Ints) && slices.Equal(a.Nums.Fracs, b.Nums.Fracs) && automaton.Same(a.Strs, b.Strs)
 }
 
-// sameVal reports whether two Vals have the same parts.
-func sameVal(a, b api.Val) bool {
-	return same(a.V, b.V) && same(a.D, b.D)
+// SameVal reports whether two Vals have the same parts.
+func SameVal(a, b api.Val) bool {
+	return Same(a.V, b.V) && Same(a.D, b.D)
 }
 
 // sameList reports whether two list cases have the same parts.
 func sameList(a, b api.ListCase) bool {
-	return slices.EqualFunc(a.Items, b.Items, sameVal) && slices.EqualFunc(a.Rest, b.Rest, sameVal)
+	return slices.EqualFunc(a.Items, b.Items, SameVal) && slices.EqualFunc(a.Rest, b.Rest, SameVal)
 }
 
 // sameStruct reports whether two struct cases have the same parts.
 func sameStruct(a, b api.StructCase) bool {
 	return slices.EqualFunc(a.Fields, b.Fields, func(f, g api.Field) bool {
-		return f.Label == g.Label && f.Presence == g.Presence && sameVal(f.Val, g.Val)
+		return f.Label == g.Label && f.Presence == g.Presence && SameVal(f.Val, g.Val)
 	}) && slices.EqualFunc(a.Classes, b.Classes, func(k, l api.Class) bool {
-		return automaton.Same(k.Set, l.Set) && sameVal(k.Val, l.Val)
+		return automaton.Same(k.Set, l.Set) && SameVal(k.Val, l.Val)
 	})
 }

@@ -1,0 +1,89 @@
+package parts_test
+
+import (
+	"slices"
+	"testing"
+
+	"configlang/api"
+	"configlang/parts"
+	"configlang/trial"
+	"configlang/value"
+)
+
+// TestCompare checks that Compare of sound values is that of layer 12, and 0 exactly for those that are the same.
+func TestCompare(t *testing.T) {
+	x := trial.Random(1)
+	same := 0
+	for range 3000 {
+		v, w := trial.Value(&x, 2), trial.Value(&x, 2)
+		if x.Below(3) == 0 {
+			w = trial.Lower(&x, v)
+		}
+		n := parts.Compare(v, w)
+		if n != value.Compare(v, w) || n != -parts.Compare(w, v) || (n == 0) != parts.Same(v, w) {
+			t.Fatalf("Compare of %s and %s: %d", trial.Show(value.Plain(v)), trial.Show(value.Plain(w)), n)
+		}
+		if n == 0 {
+			same++
+		}
+		for _, c := range v.Lists {
+			for _, d := range w.Lists {
+				if parts.CompareLists(c, d) != value.Compare(trial.List(c), trial.List(d)) {
+					t.Fatal("CompareLists")
+				}
+			}
+		}
+		for _, c := range v.Structs {
+			for _, d := range w.Structs {
+				if parts.CompareStructs(c, d) != value.Compare(trial.Record(c), trial.Record(d)) {
+					t.Fatal("CompareStructs")
+				}
+			}
+		}
+	}
+	if same < 100 {
+		t.Errorf("%d pairs are the same", same)
+	}
+}
+
+// TestSame checks values that differ in one part, sound or not, and that nil and empty lists are the same.
+func TestSame(t *testing.T) {
+	one := trial.Number(1)
+	l := []api.Value{
+		{}, {Any: true}, one, {Any: true, Scalars: one.Scalars}, trial.Number(2), trial.Text("a"), trial.Text("b"),
+		{Scalars: api.Scalars{Null: true}}, {Scalars: api.Scalars{False: true}}, {Scalars: api.Scalars{True: true}},
+		{Scalars: api.Scalars{Nums: api.Nums{Fracs: one.Scalars.Nums.Ints}}}, {Scalars: api.Scalars{Strs: api.Lang{States: []api.State{{}}}}},
+		{Scalars: api.Scalars{Strs: api.Lang{States: []api.State{{Edges: []api.Edge{{}}}}}}},
+		trial.List(trial.Closed()), trial.List(trial.Closed(), trial.Closed()), trial.List(trial.Closed(one)), trial.List(trial.Longer(one)), trial.List(api.ListCase{Rest: trial.Plains(one, one)}),
+		trial.List(api.ListCase{Items: []api.Val{{V: one}}}), trial.List(api.ListCase{Items: []api.Val{{D: one}}}),
+		trial.Record(api.StructCase{}), trial.Record(api.StructCase{}, api.StructCase{}), trial.Record(trial.Open()), trial.Record(trial.Shut()),
+		trial.Record(api.StructCase{Fields: []api.Field{trial.Present("a", one)}}), trial.Record(api.StructCase{Fields: []api.Field{trial.Required("a", one)}}),
+		trial.Record(api.StructCase{Fields: []api.Field{trial.Present("b", one)}}), trial.Record(api.StructCase{Fields: []api.Field{{Label: "a", Presence: api.Present, Val: api.Val{D: one}}}}),
+		trial.Record(api.StructCase{Classes: []api.Class{{}}}), trial.Record(api.StructCase{Classes: []api.Class{{Val: value.Top()}}}), trial.Record(api.StructCase{Classes: []api.Class{{Set: trial.Strs("a")}}}),
+	}
+	for i, v := range l {
+		for j, w := range l {
+			if parts.Same(v, w) != (i == j) || parts.SameVal(value.Plain(v), value.Plain(w)) != (i == j) || parts.SameVal(api.Val{V: v}, api.Val{V: w}) != (i == j) || parts.SameVal(api.Val{D: v}, api.Val{D: w}) != (i == j) {
+				t.Errorf("values %d and %d", i, j)
+			}
+		}
+		if !parts.Same(v, parts.Copy(v)) || !parts.SameVal(api.Val{V: v}, parts.CopyVal(api.Val{V: v})) {
+			t.Errorf("a copy of value %d", i)
+		}
+	}
+	empty := api.Value{Scalars: api.Scalars{Nums: api.Nums{Ints: []api.Span{}, Fracs: []api.Span{}}, Strs: api.Lang{States: []api.State{}}}, Lists: []api.ListCase{}, Structs: []api.StructCase{}}
+	if !parts.Same(empty, api.Value{}) || !parts.Same(parts.Copy(empty), api.Value{}) {
+		t.Error("empty lists")
+	}
+}
+
+// TestEach checks Each.
+func TestEach(t *testing.T) {
+	l := []int{1, 2, 3}
+	if got := parts.Each(l, func(n int) int { return n * n }); !slices.Equal(got, []int{1, 4, 9}) || !slices.Equal(l, []int{1, 2, 3}) {
+		t.Errorf("Each: %v", got)
+	}
+	if parts.Each([]int{}, func(n int) int { return n }) != nil {
+		t.Error("Each of no elements")
+	}
+}

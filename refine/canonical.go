@@ -1,0 +1,134 @@
+package refine
+
+import (
+	"cmp"
+	"slices"
+
+	"configlang/api"
+	"configlang/lang"
+	"configlang/parts"
+	"configlang/scalar"
+	"configlang/value"
+)
+
+// kind is how the cases of one kind are compared: in the order of values, and in that in which they are listed.
+type kind[C any] struct {
+	below   func(a, b C) bool
+	compare func(a, b C) int
+}
+
+// lists returns how list cases are compared.
+func lists() kind[api.ListCase] {
+	return kind[api.ListCase]{below: belowList, compare: parts.CompareLists}
+}
+
+// structs returns how struct cases are compared.
+func structs() kind[api.StructCase] {
+	return kind[api.StructCase]{below: belowStruct, compare: parts.CompareStructs}
+}
+
+// canonicalVal reports whether a sound Val is canonical.
+func canonicalVal(v api.Val) bool {
+	return canonical(v.V) && (parts.Same(v.V, v.D) || canonical(v.D) && below(v.D, v.V))
+}
+
+// canonical reports whether a sound value is canonical.
+func canonical(v api.Value) bool {
+	return !everything(v) &&
+		all(v.Lists, canonicalList) && all(v.Structs, canonicalStruct) &&
+		lean(v.Lists, lists()) && lean(v.Structs, structs())
+}
+
+// everything reports whether a value is everything, but written out.
+func everything(v api.Value) bool {
+	if len(v.Lists) == 0 || len(v.Structs) == 0 {
+		return false // as most values, and found without composing everything
+	}
+	scalars := scalar.All()
+	return parts.Same(v, api.Value{
+		Scalars: scalars,
+		Lists:   []api.ListCase{{Rest: []api.Val{value.Top()}}},
+		Structs: []api.StructCase{{Classes: []api.Class{{Set: scalars.Strs, Val: value.Top()}}}},
+	})
+}
+
+// bottom reports whether a sound Val has no instances.
+func bottom(v api.Val) bool {
+	return parts.Same(v.V, api.Value{})
+}
+
+// canonicalList reports whether a sound list case is canonical.
+func canonicalList(c api.ListCase) bool {
+	return !slices.ContainsFunc(c.Items, bottom) && !slices.ContainsFunc(c.Rest, bottom) &&
+		all(c.Items, canonicalVal) && all(c.Rest, canonicalVal)
+}
+
+// canonicalStruct reports whether a sound struct case is canonical.
+func canonicalStruct(c api.StructCase) bool {
+	return all(c.Fields, func(f api.Field) bool { return !bottom(f.Val) && canonicalVal(f.Val) }) &&
+		all(c.Classes, func(k api.Class) bool { return canonicalVal(k.Val) }) &&
+		united(c.Classes) && slices.IsSortedFunc(c.Classes, compareClasses)
+}
+
+// united reports whether no two classes have the same Val.
+func united(l []api.Class) bool {
+	for i, k := range l {
+		if slices.ContainsFunc(l[:i], func(o api.Class) bool { return parts.SameVal(k.Val, o.Val) }) {
+			return false
+		}
+	}
+	return true
+}
+
+// compareClasses compares classes without common labels by the least strings of their sets.
+func compareClasses(a, b api.Class) int {
+	s, _ := lang.Least(a.Set)
+	t, _ := lang.Least(b.Set)
+	return cmp.Or(cmp.Compare(len(s), len(t)), cmp.Compare(s, t))
+}
+
+// lean reports whether cases are in ascending order, and none is below another one.
+func lean[C any](l []C, k kind[C]) bool {
+	for i := range l {
+		if i > 0 && k.compare(l[i-1], l[i]) > 0 {
+			return false
+		}
+		// Cut before the case, the list is copied by append, and stays as it is.
+		if covered(l[i:i+1], append(l[:i:i], l[i+1:]...), k.below) {
+			return false
+		}
+	}
+	return true
+}
+
+// greatest returns the cases that are not below others, each once, in ascending order.
+func greatest[C any](l []C, k kind[C]) []C {
+	var kept []C
+cases:
+	for _, c := range l {
+		for _, d := range kept {
+			if k.below(c, d) {
+				continue cases
+			}
+		}
+		kept = append(only(kept, func(d C) bool { return !k.below(d, c) }), c)
+	}
+	slices.SortFunc(kept, k.compare)
+	return kept
+}
+
+// all reports whether all elements of a list pass a test.
+func all[T any](l []T, test func(T) bool) bool {
+	return !slices.ContainsFunc(l, func(x T) bool { return !test(x) })
+}
+
+// only returns the elements of a list that pass a test.
+func only[T any](l []T, test func(T) bool) []T {
+	var passed []T
+	for _, x := range l {
+		if test(x) {
+			passed = append(passed, x)
+		}
+	}
+	return passed
+}
