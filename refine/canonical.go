@@ -1,11 +1,9 @@
 package refine
 
 import (
-	"cmp"
 	"slices"
 
 	"configlang/api"
-	"configlang/lang"
 	"configlang/parts"
 	"configlang/scalar"
 	"configlang/value"
@@ -67,7 +65,7 @@ func canonicalList(c api.ListCase) bool {
 func canonicalStruct(c api.StructCase) bool {
 	return all(c.Fields, func(f api.Field) bool { return !bottom(f.Val) && canonicalVal(f.Val) }) &&
 		all(c.Classes, func(k api.Class) bool { return canonicalVal(k.Val) }) &&
-		united(c.Classes) && slices.IsSortedFunc(c.Classes, compareClasses)
+		united(c.Classes) && slices.IsSortedFunc(c.Classes, parts.ByLeast)
 }
 
 // united reports whether no two classes have the same Val.
@@ -78,13 +76,6 @@ func united(l []api.Class) bool {
 		}
 	}
 	return true
-}
-
-// compareClasses compares classes without common labels by the least strings of their sets.
-func compareClasses(a, b api.Class) int {
-	s, _ := lang.Least(a.Set)
-	t, _ := lang.Least(b.Set)
-	return cmp.Or(cmp.Compare(len(s), len(t)), cmp.Compare(s, t))
 }
 
 // lean reports whether cases are in ascending order, and none is below another one.

@@ -4,7 +4,6 @@ import (
 	"slices"
 
 	"configlang/api"
-	"configlang/lang"
 	"configlang/parts"
 	"configlang/value"
 )
@@ -67,19 +66,8 @@ func (m *maker) fields(c api.StructCase) (api.StructCase, bool) {
 		f.Val = m.val(f.Val)
 		return f
 	})}
-	for _, k := range c.Classes {
-		made.Classes = unite(made.Classes, api.Class{Set: parts.CopySet(k.Set), Val: m.val(k.Val)})
-	}
-	slices.SortFunc(made.Classes, compareClasses)
+	made.Classes = parts.Unite(parts.Each(c.Classes, func(k api.Class) api.Class {
+		return api.Class{Set: parts.CopySet(k.Set), Val: m.val(k.Val)}
+	}))
 	return made, !slices.ContainsFunc(made.Fields, func(f api.Field) bool { return bottom(f.Val) })
-}
-
-// unite adds a class to others; its set is added to the class that has the same Val, if there is one.
-func unite(l []api.Class, k api.Class) []api.Class {
-	i := slices.IndexFunc(l, func(o api.Class) bool { return parts.SameVal(k.Val, o.Val) })
-	if i < 0 {
-		return append(l, k)
-	}
-	l[i].Set = lang.Or(l[i].Set, k.Set)
-	return l
 }

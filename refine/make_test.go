@@ -52,7 +52,7 @@ func TestMake(t *testing.T) {
 			}
 		}
 		for range 10 {
-			if d := someData(&x, 3); has(v.V, d) != has(got.V, d) {
+			if d := trial.Data(&x, 3); trial.Has(v.V, d) != trial.Has(got.V, d) {
 				t.Fatalf("Make(%s): %s, for %v", trial.Show(v), trial.Show(got), d)
 			}
 		}
@@ -150,7 +150,7 @@ func TestMakeDefaults(t *testing.T) {
 			}
 		}
 	}
-	for i, v := range wrongValues()[:8] {
+	for i, v := range trial.Unsound() {
 		for _, u := range []api.Val{value.Plain(v), trial.Marked(v, bottom), trial.Marked(top, v), value.Plain(list(trial.Closed(v)))} {
 			if got, e := refine.Make(u); e != api.ErrKind || !parts.SameVal(got, api.Val{}) {
 				t.Errorf("value %d, which is not sound: %s, %d", i, trial.Show(got), e)

@@ -1,7 +1,6 @@
 package refine_test
 
 import (
-	"reflect"
 	"testing"
 
 	"configlang/api"
@@ -10,53 +9,22 @@ import (
 	"configlang/trial"
 )
 
-// memory counts how often each memory is referred to.
-func memory(v reflect.Value, found map[uintptr]int) {
-	switch v.Kind() {
-	case reflect.Slice:
-		if v.Cap() > 0 {
-			found[v.Pointer()]++
-		}
-		for i := range v.Len() {
-			memory(v.Index(i), found)
-		}
-	case reflect.Struct:
-		for i := range v.NumField() {
-			memory(v.Field(i), found)
-		}
-	}
-}
-
-// shares reports whether two lists in some structures share memory.
-func shares(l ...any) bool {
-	found := map[uintptr]int{}
-	for _, x := range l {
-		memory(reflect.ValueOf(x), found)
-	}
-	for _, n := range found {
-		if n > 1 {
-			return true
-		}
-	}
-	return false
-}
-
 // TestMemory checks that results share no memory with arguments, nor their parts with each other (P13.3, P13.4).
 func TestMemory(t *testing.T) {
 	x := trial.Random(137)
 	for range 1500 {
 		v := parts.CopyVal(trial.Val(&x, 3))
-		if shares(v) {
+		if trial.Shares(v) {
 			t.Fatal("the argument shares memory with itself")
 		}
-		if m, e := refine.Make(v); e != api.OK || shares(v, m) {
+		if m, e := refine.Make(v); e != api.OK || trial.Shares(v, m) {
 			t.Fatalf("Make(%s): %d", trial.Show(v), e)
 		}
 		m := parts.CopyVal(made(t, v))
-		if again, e := refine.Make(m); e != api.OK || shares(m, again) {
+		if again, e := refine.Make(m); e != api.OK || trial.Shares(m, again) {
 			t.Fatalf("Make(%s): %d", trial.Show(m), e)
 		}
-		if shares(m, refine.Lists(m.V.Lists)) || shares(m, refine.Structs(m.V.Structs)) {
+		if trial.Shares(m, api.Val{V: list(refine.Lists(m.V.Lists)...), D: record(refine.Structs(m.V.Structs)...)}) {
 			t.Fatalf("cases of %s", trial.Show(m))
 		}
 	}

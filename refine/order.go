@@ -2,13 +2,11 @@ package refine
 
 import (
 	"slices"
-	"strings"
 
 	"configlang/api"
 	"configlang/lang"
 	"configlang/parts"
 	"configlang/scalar"
-	"configlang/value"
 )
 
 // leq reports whether a Val is below another one; both are sound, and their defaults are below their values.
@@ -60,12 +58,12 @@ func belowList(a, b api.ListCase) bool {
 // belowStruct reports whether a sound struct case is below another one.
 func belowStruct(a, b api.StructCase) bool {
 	for _, f := range b.Fields {
-		if v, presence := view(a, f.Label); presence > f.Presence || !leq(v, f.Val) {
+		if v, presence := parts.View(a, f.Label); presence > f.Presence || !leq(v, f.Val) {
 			return false
 		}
 	}
 	for _, f := range a.Fields {
-		if v, presence := view(b, f.Label); presence == api.Optional && !leq(f.Val, v) {
+		if v, presence := parts.View(b, f.Label); presence == api.Optional && !leq(f.Val, v) {
 			return false
 		}
 	}
@@ -82,14 +80,4 @@ func belowClasses(a, b []api.Class) bool {
 		}
 	}
 	return true
-}
-
-// view returns what a sound struct case says about a label.
-func view(c api.StructCase, label string) (api.Val, int) {
-	// The fields are in order, and can be many.
-	i, found := slices.BinarySearchFunc(c.Fields, label, func(f api.Field, s string) int { return strings.Compare(f.Label, s) })
-	if found {
-		return c.Fields[i].Val, c.Fields[i].Presence
-	}
-	return value.View(api.StructCase{Classes: c.Classes}, label)
 }

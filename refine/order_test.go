@@ -51,9 +51,9 @@ func TestOrder(t *testing.T) {
 		}
 		yes++
 		for range 20 {
-			if d := someData(&x, 3); has(a.V, d) {
+			if d := trial.Data(&x, 3); trial.Has(a.V, d) {
 				instances++
-				if !has(b.V, d) {
+				if !trial.Has(b.V, d) {
 					t.Fatalf("%s is below %s, but has %v", shown(a.V), shown(b.V), d)
 				}
 			}
@@ -184,7 +184,7 @@ func TestDefaults(t *testing.T) {
 // TestInvalidOrder checks that nothing is below or above what is not valid (P13.1).
 func TestInvalidOrder(t *testing.T) {
 	x := trial.Random(133)
-	for _, v := range wrong() {
+	for _, v := range trial.Wrong() {
 		if refine.Leq(v, v) || refine.Leq(v, value.Top()) || refine.Leq(value.Bottom(), v) {
 			t.Errorf("Leq of %s", trial.Show(v))
 		}

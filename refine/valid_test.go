@@ -13,80 +13,6 @@ import (
 	"configlang/value"
 )
 
-// wrongValues returns values that are not valid, each for one reason.
-func wrongValues() []api.Value {
-	shut, open := trial.Shut, trial.Open
-	list, record := trial.List, trial.Record
-	a, noA := automaton.Word("a"), trial.Others(value.Top(), "a").Set
-	loose := trial.Marked(one, two)
-	deep := one
-	for range api.MaxDepth {
-		deep = list(api.ListCase{Items: []api.Val{trial.Marked(deep, bottom)}})
-	}
-	return []api.Value{
-		// Not sound.
-		{Any: true, Scalars: one.Scalars},
-		{Scalars: api.Scalars{Strs: api.Lang{States: []api.State{{}}}}},
-		list(api.ListCase{Rest: trial.Plains(one, two)}),
-		record(api.StructCase{Classes: []api.Class{{Set: a, Val: value.Top()}}}),
-		record(api.StructCase{Classes: []api.Class{{Set: automaton.All(), Val: value.Top()}, {Set: a}}}),
-		record(open(trial.Present("b", one), trial.Present("a", one))),
-		record(open(api.Field{Label: "a", Presence: api.Optional, Val: value.Top()})),
-		deep,
-		// Bottom.
-		list(trial.Closed(bottom)),
-		list(trial.Closed(one, bottom)),
-		list(trial.Longer(bottom)),
-		list(trial.Longer(bottom, one)),
-		record(open(trial.Present("a", bottom))),
-		record(open(trial.Required("a", bottom))),
-		record(shut(trial.Present("a", one), trial.Required("b", bottom))),
-		// Cases that are below others.
-		list(trial.Closed(one), trial.Closed(one)),
-		list(trial.Closed(one), trial.Closed(ints)),
-		list(trial.Closed(ints), trial.Closed(one)),
-		list(trial.Longer(ints), trial.Closed(one)),
-		list(trial.Longer(ints), trial.Closed(null), trial.Closed(one)),
-		record(open(), open()),
-		record(open(trial.Present("a", one)), open()),
-		record(open(), open(trial.Present("a", one))),
-		record(open(trial.Present("a", one)), open(trial.Required("a", one))),
-		// The order of cases.
-		list(trial.Closed(null, null), trial.Closed(one)),
-		list(trial.Closed(one), trial.Closed(null)),
-		list(trial.Closed(), trial.Closed(two), trial.Longer(one, one)),
-		list(trial.Closed(null), trial.Longer(one, one)),
-		record(shut(trial.Present("b", one)), shut(trial.Present("a", one))),
-		record(shut(trial.Present("a", two)), shut(trial.Present("a", one))),
-		// Classes.
-		record(api.StructCase{Classes: []api.Class{{Set: noA, Val: value.Top()}, {Set: a, Val: value.Top()}}}),
-		record(api.StructCase{Classes: []api.Class{{Set: a, Val: value.Plain(one)}, {Set: noA, Val: value.Top()}}}),
-		record(api.StructCase{Fields: []api.Field{trial.Present("", one)}, Classes: []api.Class{
-			{Set: trial.Strs("bb.*")}, {Set: trial.Strs("[^b].*|b[^b].*"), Val: value.Top()}, {Set: trial.Strs("b"), Val: value.Plain(one)},
-		}}),
-		record(api.StructCase{Fields: []api.Field{trial.Present("", one)}, Classes: []api.Class{
-			{Set: trial.Strs("[^b].*|b.+"), Val: value.Top()}, {Set: trial.Strs("b"), Val: value.Top()},
-		}}),
-		// Everything, written out.
-		{Scalars: scalar.All(), Lists: []api.ListCase{trial.Longer(top)}, Structs: []api.StructCase{open()}},
-		// Defaults.
-		list(api.ListCase{Items: []api.Val{loose}}),
-		list(api.ListCase{Rest: []api.Val{loose}}),
-		record(open(api.Field{Label: "a", Presence: api.Present, Val: loose})),
-		record(trial.Fields(loose)),
-		list(api.ListCase{Rest: []api.Val{trial.Marked(list(trial.Closed(one)), list(trial.Longer(one)))}}),
-	}
-}
-
-// wrong returns Vals that are not valid.
-func wrong() []api.Val {
-	l := []api.Val{trial.Marked(one, two), trial.Marked(bottom, one), trial.Marked(one, top), trial.Marked(list(trial.Closed(one)), list(trial.Longer(one)))}
-	for _, v := range wrongValues() {
-		l = append(l, trial.Marked(v, bottom), trial.Marked(top, v), value.Plain(v))
-	}
-	return l
-}
-
 // list and record are shorter names.
 var list, record = trial.List, trial.Record
 
@@ -103,7 +29,7 @@ func around(v api.Val) []api.Value {
 
 // TestWrong checks values that are not valid for one reason, also as parts of other values (P13.2).
 func TestWrong(t *testing.T) {
-	for i, v := range wrongValues() {
+	for i, v := range trial.WrongValues() {
 		if refine.Good(v) || isGood(v) {
 			t.Errorf("value %d is not valid: %s", i, shown(v))
 		}
@@ -113,7 +39,7 @@ func TestWrong(t *testing.T) {
 			}
 		}
 	}
-	for i, v := range wrong() {
+	for i, v := range trial.Wrong() {
 		if refine.Valid(v) || isValid(v) {
 			t.Errorf("Val %d is not valid: %s", i, trial.Show(v))
 		}

@@ -1,4 +1,4 @@
-// Package trial composes values for the tests of the layers: by hand, and at random. The program does not use it.
+// Package trial composes values and data for the tests of the layers: by hand, and at random, valid and not. The program does not use it.
 package trial
 
 import (

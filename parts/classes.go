@@ -1,0 +1,48 @@
+package parts
+
+import (
+	"cmp"
+	"slices"
+	"strings"
+
+	"configlang/api"
+	"configlang/automaton"
+	"configlang/lang"
+)
+
+// View returns what a sound struct case says about a label.
+func View(c api.StructCase, label string) (api.Val, int) {
+	// The fields are in order, and can be many.
+	i, found := slices.BinarySearchFunc(c.Fields, label, func(f api.Field, s string) int { return strings.Compare(f.Label, s) })
+	if found {
+		return c.Fields[i].Val, c.Fields[i].Presence
+	}
+	for _, k := range c.Classes {
+		if automaton.Accepts(k.Set, label) {
+			return k.Val, api.Optional
+		}
+	}
+	return api.Val{}, api.Optional
+}
+
+// Unite returns classes without common labels in their canonical form: those with the same Val are one, and they are in ascending order of the least strings of their sets.
+func Unite(l []api.Class) []api.Class {
+	var united []api.Class
+	for _, k := range l {
+		i := slices.IndexFunc(united, func(o api.Class) bool { return SameVal(k.Val, o.Val) })
+		if i < 0 {
+			united = append(united, k)
+			continue
+		}
+		united[i].Set = lang.Or(united[i].Set, k.Set)
+	}
+	slices.SortFunc(united, ByLeast)
+	return united
+}
+
+// ByLeast compares classes without common labels by the least strings of their sets.
+func ByLeast(a, b api.Class) int {
+	s, _ := lang.Least(a.Set)
+	t, _ := lang.Least(b.Set)
+	return cmp.Or(cmp.Compare(len(s), len(t)), cmp.Compare(s, t))
+}

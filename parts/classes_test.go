@@ -1,0 +1,79 @@
+package parts_test
+
+import (
+	"testing"
+
+	"configlang/api"
+	"configlang/automaton"
+	"configlang/lang"
+	"configlang/parts"
+	"configlang/trial"
+	"configlang/value"
+)
+
+// TestView compares View of sound struct cases with that of layer 12.
+func TestView(t *testing.T) {
+	x := trial.Random(3)
+	fields, classes := 0, 0
+	for range 1500 {
+		c := trial.StructCase(&x, 1)
+		for _, label := range append(trial.Labels(), "x", "aaa", "zb") {
+			v, p := parts.View(c, label)
+			w, q := value.View(c, label)
+			if p != q || !parts.SameVal(v, w) {
+				t.Fatalf("View(%s, %q): %s, %d", trial.Show(api.Val{V: trial.Record(c)}), label, trial.Show(v), p)
+			}
+			if p < api.Optional {
+				fields++
+			} else {
+				classes++
+			}
+		}
+	}
+	if fields < 1000 || classes < 5000 {
+		t.Errorf("%d fields, %d classes", fields, classes)
+	}
+	if v, p := parts.View(api.StructCase{}, "a"); p != api.Optional || !parts.SameVal(v, api.Val{}) {
+		t.Errorf("a case without classes: %s, %d", trial.Show(v), p)
+	}
+}
+
+// TestUnite checks that Unite leaves what is said about each label, and returns classes in order with different Vals.
+func TestUnite(t *testing.T) {
+	x := trial.Random(4)
+	united := 0
+	for range 1500 {
+		var l []api.Class
+		for _, set := range trial.Divide(&x, nil) {
+			l = append(l, api.Class{Set: set, Val: value.Plain(trial.Number(int64(x.Below(2))))})
+		}
+		before := parts.CopyStruct(api.StructCase{Classes: l})
+		got := parts.Unite(l)
+		if !parts.Same(trial.Record(api.StructCase{Classes: l}), trial.Record(before)) {
+			t.Fatal("Unite changes the classes")
+		}
+		for i, k := range got {
+			var want api.Lang
+			for _, o := range l {
+				if parts.SameVal(k.Val, o.Val) {
+					want = lang.Or(want, o.Set)
+				}
+			}
+			if !automaton.Same(k.Set, want) || i > 0 && (parts.ByLeast(got[i-1], k) >= 0 || lang.Compare(got[i-1].Set, k.Set) >= 0 || parts.SameVal(got[i-1].Val, k.Val)) {
+				t.Fatalf("class %d of %s", i, trial.Show(api.Val{V: trial.Record(api.StructCase{Classes: got})}))
+			}
+		}
+		if len(got) > 2 || len(got) == 2 && parts.ByLeast(got[1], got[0]) <= 0 {
+			t.Fatalf("%d classes", len(got))
+		}
+		if len(got) < len(l) {
+			united++
+		}
+	}
+	if united < 300 {
+		t.Errorf("%d times classes are united", united)
+	}
+	if len(parts.Unite(nil)) > 0 {
+		t.Error("no classes")
+	}
+}
