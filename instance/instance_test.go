@@ -8,7 +8,6 @@ import (
 	"configlang/api"
 	"configlang/data"
 	"configlang/instance"
-	"configlang/lang"
 	"configlang/parts"
 	"configlang/refine"
 	"configlang/scalar"
@@ -102,97 +101,19 @@ func failures(v api.Value, d api.Data) [][]api.Step {
 	return [][]api.Step{nil}
 }
 
-// simple returns a random valid value, often without alternatives, so that paths lead into it.
-func simple(x *trial.Random) api.Value {
-	v := trial.Val(x, 2+x.Below(3)).V
-	var cut func(v *api.Value)
-	cut = func(v *api.Value) {
-		v.Lists = v.Lists[:min(len(v.Lists), 1+x.Below(2))]
-		v.Structs = v.Structs[:min(len(v.Structs), 1+x.Below(2))]
-		for _, c := range v.Lists {
-			for i := range c.Items {
-				cut(&c.Items[i].V)
-				c.Items[i].D = bottom
-			}
-			for i := range c.Rest {
-				cut(&c.Rest[i].V)
-				c.Rest[i].D = bottom
-			}
-		}
-		for _, c := range v.Structs {
-			for i := range c.Fields {
-				cut(&c.Fields[i].Val.V)
-				c.Fields[i].Val.D = bottom
-			}
-			for i := range c.Classes {
-				cut(&c.Classes[i].Val.V)
-				c.Classes[i].Val.D = bottom
-			}
-		}
-	}
-	cut(&v)
-	return trial.Made(trial.Marked(v, bottom)).V
-}
-
-// near returns random data of about the form of a valid value; often, but not always, it is an instance.
-func near(x *trial.Random, v api.Value) api.Data {
-	switch n := x.Below(8); {
-	case v.Any, n == 0:
-		return trial.Data(x, 3)
-	case n < 4 && len(v.Lists) > 0:
-		c := trial.Pick(x, v.Lists...)
-		d := api.Data{Kind: api.List}
-		for i := range len(c.Items) + x.Below(3)*len(c.Rest) {
-			u, _ := value.Item(c, i)
-			d.Items = append(d.Items, near(x, u.V))
-		}
-		return d
-	case len(v.Structs) > 0:
-		return nearStruct(x, trial.Pick(x, v.Structs...))
-	}
-	if d, ok := scalar.Least(v.Scalars); ok {
-		return d
-	}
-	return trial.Data(x, 1)
-}
-
-// nearStruct is near for a struct case.
-func nearStruct(x *trial.Random, c api.StructCase) api.Data {
-	var labels []string
-	for _, f := range c.Fields {
-		if x.Below(10) > 0 {
-			labels = append(labels, f.Label)
-		}
-	}
-	for _, k := range c.Classes {
-		for _, s := range lang.Words(k.Set, 2) {
-			if !value.IsBottom(k.Val.V) && x.Below(3) == 0 || x.Below(12) == 0 {
-				labels = append(labels, s)
-			}
-		}
-	}
-	slices.Sort(labels)
-	d := of()
-	for _, label := range labels {
-		u, _ := value.View(c, label)
-		d.Members = append(d.Members, member(label, near(x, u.V)))
-	}
-	return d
-}
-
 // TestHas compares Has, Count and Failures with their definitions (P18.1, P18.2), and checks where the paths lead (P18.3).
 func TestHas(t *testing.T) {
 	x := trial.Random(181)
 	yes, no, long, empty := 0, 0, 0, 0
 	for i := range 5000 {
-		v := simple(&x)
+		v := trial.Simple(&x)
 		if i%3 == 0 {
 			v = trial.Valid(&x, 1+x.Below(3)).V
 		}
 		var l []api.Data
 		count := 0
 		for range 5 {
-			d := near(&x, v)
+			d := trial.DataNear(&x, v)
 			before, e := data.Make(d)
 			if e != api.OK {
 				t.Fatalf("%v: %d", d, e)
@@ -249,18 +170,6 @@ func checkPaths(t *testing.T, d api.Data, paths [][]api.Step) {
 	}
 }
 
-// union returns the least upper bound of two valid values.
-func union(a, b api.Value) api.Value {
-	if a.Any || b.Any {
-		return top
-	}
-	return trial.Made(trial.Marked(api.Value{
-		Scalars: scalar.Or(a.Scalars, b.Scalars),
-		Lists:   slices.Concat(a.Lists, b.Lists),
-		Structs: slices.Concat(a.Structs, b.Structs),
-	}, bottom)).V
-}
-
 // TestBounds checks the instances of greatest lower bounds and of unions, and of values that are below others (P18.3).
 func TestBounds(t *testing.T) {
 	x := trial.Random(182)
@@ -268,12 +177,12 @@ func TestBounds(t *testing.T) {
 	for range 1500 {
 		a, b := trial.Near(&x)
 		m, e := unify.Meet(a.V, b.V)
-		u := union(a.V, b.V)
+		u := trial.Union(a.V, b.V)
 		if e != api.OK {
 			t.Fatalf("Meet: %d", e)
 		}
 		for range 20 {
-			d := near(&x, trial.Pick(&x, a.V, b.V, m))
+			d := trial.DataNear(&x, trial.Pick(&x, a.V, b.V, m))
 			p, q := instance.Has(a.V, d), instance.Has(b.V, d)
 			if instance.Has(m, d) != (p && q) || instance.Has(u, d) != (p || q) {
 				t.Fatalf("%v: %s, %s, %s, %s", d, trial.Show(a), trial.Show(b), shown(m), shown(u))
@@ -367,7 +276,7 @@ func TestDefaults(t *testing.T) {
 	}
 	for range 500 {
 		v := trial.Valid(&x, 2)
-		d := near(&x, v.V)
+		d := trial.DataNear(&x, v.V)
 		if instance.Has(v.V, d) != instance.Has(trial.Made(bare(v)).V, d) {
 			t.Fatalf("%v in %s", d, trial.Show(v))
 		}
@@ -479,10 +388,10 @@ func TestMany(t *testing.T) {
 func TestMemory(t *testing.T) {
 	x := trial.Random(184)
 	for range 2000 {
-		v := simple(&x)
+		v := trial.Simple(&x)
 		before := parts.Copy(v)
 		m := trial.Memory{}
-		l := instance.Failures(v, near(&x, v))
+		l := instance.Failures(v, trial.DataNear(&x, v))
 		trial.Note(m, l)
 		for _, path := range l {
 			trial.Note(m, path)

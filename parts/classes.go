@@ -28,16 +28,30 @@ func View(c api.StructCase, label string) (api.Val, int) {
 // Unite returns classes without common labels in their canonical form: those with the same Val are one, and they are in ascending order of the least strings of their sets.
 func Unite(l []api.Class) []api.Class {
 	var united []api.Class
+	var sets [][]api.Lang // what each of them is united of
 	for _, k := range l {
 		i := slices.IndexFunc(united, func(o api.Class) bool { return SameVal(k.Val, o.Val) })
 		if i < 0 {
+			i = len(united)
 			united = append(united, k)
-			continue
+			sets = append(sets, nil)
 		}
-		united[i].Set = lang.Or(united[i].Set, k.Set)
+		sets[i] = append(sets[i], k.Set)
+	}
+	for i := range united {
+		united[i].Set = union(sets[i])
 	}
 	slices.SortFunc(united, ByLeast)
 	return united
+}
+
+// union returns the union of some sets, at least one. They are united half by half, so that large sets are united with large ones, and not with each small one.
+func union(l []api.Lang) api.Lang {
+	n := len(l)
+	if n == 1 {
+		return l[0]
+	}
+	return lang.Or(union(l[:n/2]), union(l[n/2:]))
 }
 
 // ByLeast compares classes without common labels by the least strings of their sets.

@@ -1,6 +1,7 @@
 package parts_test
 
 import (
+	"strconv"
 	"testing"
 
 	"configlang/api"
@@ -75,5 +76,26 @@ func TestUnite(t *testing.T) {
 	}
 	if len(parts.Unite(nil)) > 0 {
 		t.Error("no classes")
+	}
+}
+
+// TestUniteMany checks classes of many sets, which are united half by half.
+func TestUniteMany(t *testing.T) {
+	for n := 1; n <= 40; n++ {
+		var l []api.Class
+		rest := trial.Strs(".*")
+		for i := range n {
+			set := automaton.Word(strconv.Itoa(i))
+			rest = lang.Minus(rest, set)
+			l = append(l, api.Class{Set: set, Val: value.Plain(trial.Number(int64(i % 2)))})
+		}
+		got := parts.Unite(append(l, api.Class{Set: rest, Val: value.Plain(trial.Number(0))}))
+		var odd api.Lang
+		for i := 1; i < n; i += 2 {
+			odd = lang.Or(odd, automaton.Word(strconv.Itoa(i)))
+		}
+		if len(got) != 1+min(n/2, 1) || !automaton.Same(got[0].Set, lang.Not(odd)) || len(got) > 1 && !automaton.Same(got[1].Set, odd) {
+			t.Errorf("%d classes: %d are left", n, len(got))
+		}
 	}
 }

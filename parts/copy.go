@@ -55,11 +55,11 @@ func CopyStruct(c api.StructCase) api.StructCase {
 }
 
 // Each returns what a function makes of each element of a list; nil for an empty one.
-func Each[T any](l []T, change func(T) T) []T {
+func Each[T, U any](l []T, change func(T) U) []U {
 	if len(l) == 0 {
 		return nil
 	}
-	changed := make([]T, 0, len(l))
+	changed := make([]U, 0, len(l))
 	for _, x := range l {
 		changed = append(changed, change(x))
 	}

@@ -1,4 +1,4 @@
-// Package parts compares and copies values part by part, and unites classes. It does not ask whether they are sound, so that the layers that have found that out need not do so again for each part.
+// Package parts compares and copies values part by part, finds everything that is written out, and unites classes. It does not ask whether they are sound, so that the layers that have found that out need not do so again for each part.
 package parts
 
 import (

@@ -2,10 +2,12 @@ package parts_test
 
 import (
 	"slices"
+	"strconv"
 	"testing"
 
 	"configlang/api"
 	"configlang/parts"
+	"configlang/scalar"
 	"configlang/trial"
 	"configlang/value"
 )
@@ -83,7 +85,34 @@ func TestEach(t *testing.T) {
 	if got := parts.Each(l, func(n int) int { return n * n }); !slices.Equal(got, []int{1, 4, 9}) || !slices.Equal(l, []int{1, 2, 3}) {
 		t.Errorf("Each: %v", got)
 	}
+	if got := parts.Each(l, strconv.Itoa); !slices.Equal(got, []string{"1", "2", "3"}) {
+		t.Errorf("Each of another type: %v", got)
+	}
 	if parts.Each([]int{}, func(n int) int { return n }) != nil {
 		t.Error("Each of no elements")
+	}
+}
+
+// TestEverything checks everything that is written out, and values that lack something.
+func TestEverything(t *testing.T) {
+	lists, structs := []api.ListCase{trial.Longer(value.Top().V)}, []api.StructCase{trial.Open()}
+	if !parts.Everything(api.Value{Scalars: scalar.All(), Lists: lists, Structs: structs}) {
+		t.Error("everything")
+	}
+	noNull := scalar.All()
+	noNull.Null = false
+	for i, v := range []api.Value{
+		{}, value.Top().V, {Scalars: scalar.All()}, {Scalars: scalar.All(), Lists: lists}, {Scalars: scalar.All(), Structs: structs}, {Lists: lists, Structs: structs},
+		{Scalars: noNull, Lists: lists, Structs: structs},
+		{Scalars: scalar.All(), Lists: []api.ListCase{{}}, Structs: structs},
+		{Scalars: scalar.All(), Lists: []api.ListCase{trial.Longer(value.Top().V, value.Top().V)}, Structs: structs},
+		{Scalars: scalar.All(), Lists: []api.ListCase{{Rest: []api.Val{{V: value.Top().V}}}}, Structs: structs},
+		{Scalars: scalar.All(), Lists: lists, Structs: []api.StructCase{trial.Shut()}},
+		{Scalars: scalar.All(), Lists: lists, Structs: []api.StructCase{trial.Open(trial.Present("a", value.Top().V))}},
+		{Scalars: scalar.All(), Lists: lists, Structs: []api.StructCase{trial.Fields(api.Val{V: value.Top().V})}},
+	} {
+		if parts.Everything(v) {
+			t.Errorf("value %d", i)
+		}
 	}
 }

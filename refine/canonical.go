@@ -5,8 +5,6 @@ import (
 
 	"configlang/api"
 	"configlang/parts"
-	"configlang/scalar"
-	"configlang/value"
 )
 
 // kind is how the cases of one kind are compared: in the order of values, and in that in which they are listed.
@@ -32,22 +30,9 @@ func canonicalVal(v api.Val) bool {
 
 // canonical reports whether a sound value is canonical.
 func canonical(v api.Value) bool {
-	return !everything(v) &&
+	return !parts.Everything(v) &&
 		all(v.Lists, canonicalList) && all(v.Structs, canonicalStruct) &&
 		lean(v.Lists, lists()) && lean(v.Structs, structs())
-}
-
-// everything reports whether a value is everything, but written out.
-func everything(v api.Value) bool {
-	if len(v.Lists) == 0 || len(v.Structs) == 0 {
-		return false // as most values, and found without composing everything
-	}
-	scalars := scalar.All()
-	return parts.Same(v, api.Value{
-		Scalars: scalars,
-		Lists:   []api.ListCase{{Rest: []api.Val{value.Top()}}},
-		Structs: []api.StructCase{{Classes: []api.Class{{Set: scalars.Strs, Val: value.Top()}}}},
-	})
 }
 
 // bottom reports whether a sound Val has no instances.

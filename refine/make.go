@@ -34,7 +34,7 @@ func (m *maker) value(v api.Value) api.Value {
 		Lists:   greatest(kept(v.Lists, m.list), lists()),
 		Structs: greatest(kept(v.Structs, m.fields), structs()),
 	}
-	if everything(made) {
+	if parts.Everything(made) {
 		return value.Top().V
 	}
 	return made

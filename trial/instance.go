@@ -4,6 +4,7 @@ import (
 	"slices"
 
 	"configlang/api"
+	"configlang/lang"
 	"configlang/scalar"
 	"configlang/value"
 )
@@ -31,6 +32,52 @@ func Data(x *Random, levels int) api.Data {
 		if x.Below(8) == 0 {
 			d.Members = append(d.Members, api.Member{Label: s, Data: Data(x, levels-1)})
 		}
+	}
+	return d
+}
+
+// DataNear returns random data of about the form of a valid value; often, but not always, it is an instance.
+func DataNear(x *Random, v api.Value) api.Data {
+	switch n := x.Below(8); {
+	case v.Any, n == 0:
+		return Data(x, 3)
+	case n < 4 && len(v.Lists) > 0:
+		c := Pick(x, v.Lists...)
+		d := api.Data{Kind: api.List}
+		for i := range len(c.Items) + x.Below(3)*len(c.Rest) {
+			u, _ := value.Item(c, i)
+			d.Items = append(d.Items, DataNear(x, u.V))
+		}
+		return d
+	case len(v.Structs) > 0:
+		return nearStruct(x, Pick(x, v.Structs...))
+	}
+	if d, ok := scalar.Least(v.Scalars); ok {
+		return d
+	}
+	return Data(x, 1)
+}
+
+// nearStruct is DataNear for a struct case.
+func nearStruct(x *Random, c api.StructCase) api.Data {
+	var labels []string
+	for _, f := range c.Fields {
+		if x.Below(10) > 0 {
+			labels = append(labels, f.Label)
+		}
+	}
+	for _, k := range c.Classes {
+		for _, s := range lang.Words(k.Set, 2) {
+			if !value.IsBottom(k.Val.V) && x.Below(3) == 0 || x.Below(12) == 0 {
+				labels = append(labels, s)
+			}
+		}
+	}
+	slices.Sort(labels)
+	d := api.Data{Kind: api.Struct}
+	for _, label := range labels {
+		u, _ := value.View(c, label)
+		d.Members = append(d.Members, api.Member{Label: label, Data: DataNear(x, u.V)})
 	}
 	return d
 }

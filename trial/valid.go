@@ -1,8 +1,11 @@
 package trial
 
 import (
+	"slices"
+
 	"configlang/api"
 	"configlang/refine"
+	"configlang/scalar"
 	"configlang/value"
 )
 
@@ -18,6 +21,51 @@ func Made(v api.Val) api.Val {
 // Valid returns a random valid Val of at most a number of levels.
 func Valid(x *Random, levels int) api.Val {
 	return Made(Val(x, levels))
+}
+
+// Simple returns a random valid value, often without alternatives in its parts, so that there is one case that says what each of them may be.
+func Simple(x *Random) api.Value {
+	v := Value(x, 2+x.Below(3))
+	cut(x, &v)
+	return Made(Marked(v, value.Bottom().V)).V
+}
+
+// cut takes most alternatives, and all defaults, from the parts of a value.
+func cut(x *Random, v *api.Value) {
+	part := func(w *api.Val) {
+		cut(x, &w.V)
+		w.D = value.Bottom().V
+	}
+	v.Lists = v.Lists[:min(len(v.Lists), 1+x.Below(2))]
+	v.Structs = v.Structs[:min(len(v.Structs), 1+x.Below(2))]
+	for _, c := range v.Lists {
+		for i := range c.Items {
+			part(&c.Items[i])
+		}
+		for i := range c.Rest {
+			part(&c.Rest[i])
+		}
+	}
+	for _, c := range v.Structs {
+		for i := range c.Fields {
+			part(&c.Fields[i].Val)
+		}
+		for i := range c.Classes {
+			part(&c.Classes[i].Val)
+		}
+	}
+}
+
+// Union returns the least upper bound of two valid values, by its definition in layer 15.
+func Union(a, b api.Value) api.Value {
+	if a.Any || b.Any {
+		return value.Top().V
+	}
+	return Made(value.Plain(api.Value{
+		Scalars: scalar.Or(a.Scalars, b.Scalars),
+		Lists:   slices.Concat(a.Lists, b.Lists),
+		Structs: slices.Concat(a.Structs, b.Structs),
+	})).V
 }
 
 // Near returns two random valid Vals, of which one is often below the other one, or both are below a third one. Few are bottom.
