@@ -288,17 +288,17 @@ func TestMost(t *testing.T) {
 	if minimal, maximal = check(t, slices.Repeat([]api.Val{plain(ints)}, api.MaxParts)); len(minimal) != 0 || len(maximal) != 1 {
 		t.Errorf("no conflict: %v, %v", minimal, maximal)
 	}
-	// Any six constraints have something in common, any seven have not: as many conflicts as there can be.
-	half := make([]api.Value, api.MaxParts)
+	// Any five constraints have something in common, any six have not: as many conflicts as there can be.
+	common := make([]api.Value, api.MaxParts)
 	for s := range 1 << api.MaxParts {
-		if six := listed([]int{s})[0]; len(six) == api.MaxParts/2 {
-			for _, i := range six {
-				half[i] = trial.Union(half[i], trial.Number(int64(s)))
+		if five := listed([]int{s})[0]; len(five) == 5 {
+			for _, i := range five {
+				common[i] = trial.Union(common[i], trial.Number(int64(s)))
 			}
 		}
 	}
-	if minimal, maximal = check(t, plains(half...)); len(minimal) != 792 || len(maximal) != 924 {
-		t.Errorf("any seven: %d, %d", len(minimal), len(maximal))
+	if minimal, maximal = check(t, plains(common...)); len(minimal) != 924 || len(maximal) != 792 {
+		t.Errorf("any six: %d, %d", len(minimal), len(maximal))
 	}
 }
 
