@@ -12,10 +12,8 @@ import (
 
 // View returns what a sound struct case says about a label.
 func View(c api.StructCase, label string) (api.Val, int) {
-	// The fields are in order, and can be many.
-	i, found := slices.BinarySearchFunc(c.Fields, label, func(f api.Field, s string) int { return strings.Compare(f.Label, s) })
-	if found {
-		return c.Fields[i].Val, c.Fields[i].Presence
+	if f, found := Field(c, label); found {
+		return f.Val, f.Presence
 	}
 	for _, k := range c.Classes {
 		if automaton.Accepts(k.Set, label) {
@@ -23,6 +21,16 @@ func View(c api.StructCase, label string) (api.Val, int) {
 		}
 	}
 	return api.Val{}, api.Optional
+}
+
+// Field returns the field of a sound struct case with a label.
+func Field(c api.StructCase, label string) (api.Field, bool) {
+	// The fields are in order, and can be many.
+	i, found := slices.BinarySearchFunc(c.Fields, label, func(f api.Field, s string) int { return strings.Compare(f.Label, s) })
+	if !found {
+		return api.Field{}, false
+	}
+	return c.Fields[i], true
 }
 
 // Unite returns classes without common labels in their canonical form: those with the same Val are one, and they are in ascending order of the least strings of their sets.
@@ -43,6 +51,14 @@ func Unite(l []api.Class) []api.Class {
 	}
 	slices.SortFunc(united, ByLeast)
 	return united
+}
+
+// Strings returns the set of some strings.
+func Strings(l []string) api.Lang {
+	if len(l) == 0 {
+		return api.Lang{}
+	}
+	return union(Each(l, automaton.Word))
 }
 
 // union returns the union of some sets, at least one. They are united half by half, so that large sets are united with large ones, and not with each small one.

@@ -21,6 +21,9 @@ func TestView(t *testing.T) {
 		for _, label := range append(trial.Labels(), "x", "aaa", "zb") {
 			v, p := parts.View(c, label)
 			w, q := value.View(c, label)
+			if f, found := parts.Field(c, label); found != (q < api.Optional) || found && (f.Label != label || f.Presence != q || !parts.SameVal(f.Val, w)) || !found && (f.Label != "" || f.Presence != 0) {
+				t.Fatalf("Field(%s, %q): %v", trial.Show(api.Val{V: trial.Record(c)}), label, found)
+			}
 			if p != q || !parts.SameVal(v, w) {
 				t.Fatalf("View(%s, %q): %s, %d", trial.Show(api.Val{V: trial.Record(c)}), label, trial.Show(v), p)
 			}
@@ -76,6 +79,22 @@ func TestUnite(t *testing.T) {
 	}
 	if len(parts.Unite(nil)) > 0 {
 		t.Error("no classes")
+	}
+}
+
+// TestStrings checks sets of some strings, in any order and also twice.
+func TestStrings(t *testing.T) {
+	x := trial.Random(5)
+	for range 300 {
+		var l []string
+		var want api.Lang
+		for range x.Below(12) {
+			l = append(l, trial.Pick(&x, trial.Labels()...))
+			want = lang.Or(want, automaton.Word(l[len(l)-1]))
+		}
+		if got := parts.Strings(l); !automaton.Same(got, want) {
+			t.Fatalf("Strings(%q): %q", l, lang.Words(got, 20))
+		}
 	}
 }
 

@@ -1,4 +1,4 @@
-// Package parts compares and copies values part by part, finds everything that is written out, and unites classes. It does not ask whether they are sound, so that the layers that have found that out need not do so again for each part.
+// Package parts compares and copies values part by part, finds everything that is written out, resolves defaults, and unites classes. It does not ask whether they are sound, so that the layers that have found that out need not do so again for each part.
 package parts
 
 import (
@@ -104,7 +104,7 @@ func compareSets(a, b api.Lang) int {
 // Same reports whether two values have the same parts, whether they are sound or not.
 func Same(a, b api.Value) bool {
 	return a.Any == b.Any && SameScalars(a.Scalars, b.Scalars) &&
-		slices.EqualFunc(a.Lists, b.Lists, sameList) && slices.EqualFunc(a.Structs, b.Structs, sameStruct)
+		slices.EqualFunc(a.Lists, b.Lists, SameList) && slices.EqualFunc(a.Structs, b.Structs, SameStruct)
 }
 
 // SameScalars reports whether two sets have the same parts, whether they are valid or not.
@@ -118,13 +118,13 @@ func SameVal(a, b api.Val) bool {
 	return Same(a.V, b.V) && Same(a.D, b.D)
 }
 
-// sameList reports whether two list cases have the same parts.
-func sameList(a, b api.ListCase) bool {
+// SameList reports whether two list cases have the same parts.
+func SameList(a, b api.ListCase) bool {
 	return slices.EqualFunc(a.Items, b.Items, SameVal) && slices.EqualFunc(a.Rest, b.Rest, SameVal)
 }
 
-// sameStruct reports whether two struct cases have the same parts.
-func sameStruct(a, b api.StructCase) bool {
+// SameStruct reports whether two struct cases have the same parts.
+func SameStruct(a, b api.StructCase) bool {
 	return slices.EqualFunc(a.Fields, b.Fields, func(f, g api.Field) bool {
 		return f.Label == g.Label && f.Presence == g.Presence && SameVal(f.Val, g.Val)
 	}) && slices.EqualFunc(a.Classes, b.Classes, func(k, l api.Class) bool {

@@ -93,6 +93,35 @@ func TestEach(t *testing.T) {
 	}
 }
 
+// TestResolved checks defaults, and values of which none is left.
+func TestResolved(t *testing.T) {
+	one, two := trial.Number(1), trial.Number(2)
+	for i, c := range []struct{ v, d, want api.Value }{
+		{one, one, one}, {trial.Kind("int"), two, two}, {one, api.Value{}, one}, {value.Top().V, api.Value{}, value.Top().V}, {value.Top().V, value.Top().V, value.Top().V}, {api.Value{}, api.Value{}, api.Value{}},
+		{value.Top().V, trial.List(trial.Closed()), trial.List(trial.Closed())}, {value.Top().V, trial.Record(trial.Open()), trial.Record(trial.Open())},
+	} {
+		if got := parts.Resolved(api.Val{V: c.v, D: c.d}); !parts.Same(got, c.want) {
+			t.Errorf("case %d: %s", i, trial.Show(value.Plain(got)))
+		}
+	}
+}
+
+// TestAlternatives checks how many alternatives values have.
+func TestAlternatives(t *testing.T) {
+	lists, structs := []api.ListCase{trial.Closed(), trial.Longer(value.Top().V)}, []api.StructCase{trial.Open()}
+	for i, c := range []struct {
+		v    api.Value
+		want int
+	}{
+		{api.Value{}, 0}, {value.Top().V, 0}, {trial.Number(1), 1}, {trial.Kind("int"), 1}, {trial.Kind("null"), 1}, {trial.Text("a"), 1}, {api.Value{Lists: lists}, 2}, {api.Value{Structs: structs}, 1},
+		{api.Value{Lists: lists, Structs: structs}, 3}, {api.Value{Scalars: scalar.All(), Lists: lists, Structs: structs}, 4},
+	} {
+		if got := parts.Alternatives(c.v); got != c.want {
+			t.Errorf("case %d: %d", i, got)
+		}
+	}
+}
+
 // TestEverything checks everything that is written out, and values that lack something.
 func TestEverything(t *testing.T) {
 	lists, structs := []api.ListCase{trial.Longer(value.Top().V)}, []api.StructCase{trial.Open()}
