@@ -170,3 +170,38 @@ func TestManyClasses(t *testing.T) {
 		t.Errorf("%d classes", len(got.Classes))
 	}
 }
+
+// TestManyWords checks struct cases with a class for each of many labels, or for a few, which begin in the same way, or are the beginnings of others (P14.1).
+func TestManyWords(t *testing.T) {
+	patterns := []string{"a", "ab", "abc", "abd", "a[b-d]", "a[c-e]c", "[a-c]b", "b", "b.", "()", "abc.*", "a(b|cd)", "[ab][bc]", "\\x00", "\\x00a", "aab*"}
+	for i, p := range patterns {
+		for j, q := range patterns {
+			c := trial.Made(value.Plain(record(api.StructCase{Classes: []api.Class{{Set: trial.Strs(p), Val: value.Plain(ints)}, {Set: lang.Not(trial.Strs(p)), Val: value.Plain(two)}}}))).V.Structs[0]
+			d := trial.Made(value.Plain(record(api.StructCase{Classes: []api.Class{{Set: trial.Strs(q), Val: value.Plain(one)}, {Set: lang.Not(trial.Strs(q)), Val: value.Top()}}}))).V.Structs[0]
+			got, ok := unify.Cases(c, d)
+			if want := trial.Made(value.Plain(record(boundStruct(c, d)))).V; !ok || !parts.Same(record(got), want) {
+				t.Errorf("patterns %d and %d: %s", i, j, shown(record(got)))
+			}
+		}
+	}
+	const n = 1500
+	words := func(first int) api.StructCase {
+		var labels []string
+		var c api.StructCase
+		for i := first; i < first+n; i++ {
+			labels = append(labels, "k"+strconv.Itoa(i))
+			c.Classes = append(c.Classes, api.Class{Set: trial.Strs(labels[len(labels)-1]), Val: value.Plain(trial.Number(int64(i)))})
+		}
+		c.Classes = append(c.Classes, api.Class{Set: lang.Not(parts.Strings(labels)), Val: value.Top()})
+		return trial.Made(value.Plain(record(c))).V.Structs[0]
+	}
+	got, ok := unify.Cases(words(1000), words(1000+n/2))
+	if !ok || len(got.Classes) != 3*n/2+1 {
+		t.Fatalf("%d classes", len(got.Classes))
+	}
+	for i := 1000; i < 1000+3*n/2; i++ {
+		if v, _ := value.View(got, "k"+strconv.Itoa(i)); !parts.SameVal(v, value.Plain(trial.Number(int64(i)))) {
+			t.Errorf("class %d", i)
+		}
+	}
+}

@@ -133,9 +133,25 @@ func labels(a, b api.StructCase) []string {
 func classes(a, b api.StructCase) []api.Class {
 	var l []api.Class
 	for k, m := range pairs(a.Classes, b.Classes) {
+		if apart(k.Set, m.Set) {
+			continue // as most of many
+		}
 		if set := lang.And(k.Set, m.Set); len(set.States) > 0 {
 			l = append(l, api.Class{Set: set, Val: both(k.Val, m.Val)})
 		}
 	}
 	return parts.Unite(l)
+}
+
+// apart reports whether two valid sets, which are not empty, have no common string, as the beginning that all strings of the one have differs from that of the other.
+func apart(a, b api.Lang) bool {
+	s, t := a.States[0], b.States[0]
+	for !s.Accept && !t.Accept && len(s.Edges) == 1 && len(t.Edges) == 1 {
+		e, f := s.Edges[0], t.Edges[0]
+		if e.Hi < f.Lo || f.Hi < e.Lo {
+			return true
+		}
+		s, t = a.States[e.To], b.States[f.To]
+	}
+	return false
 }
